@@ -159,8 +159,7 @@ func OppositeAlgebra(a Algebra) (Algebra, int64) {
 	if !IsAlgebra(a) {
 		return Algebra{}, ErrInvalid
 	}
-	a.Table = transposed(a.Table)
-	return a, ErrNone
+	return oppositeTo(a), ErrNone
 }
 
 // AddAlgebras returns the sum, and ErrNone. Errors: ErrLimit if its size would be greater than
@@ -386,6 +385,11 @@ func transposed(table [6][6][6]byte) [6][6][6]byte {
 	return turned
 }
 
+func oppositeTo(a Algebra) Algebra {
+	a.Table = transposed(a.Table)
+	return a
+}
+
 // residue returns the number modulo p, also of a negative number.
 func residue(number int64, p int64) byte {
 	return byte((number%p + p) % p)
@@ -436,16 +440,20 @@ func form(a Algebra, v Vector) int64 {
 	return sum % a.Prime
 }
 
-func hasFullForm(a Algebra) bool {
-	var rows [][]byte
-	for i := range a.Size {
-		row := make([]byte, MaxSize)
+// formRows returns the forms of the products of basis vectors, each row with 0 behind the Size.
+func formRows(a Algebra) [][]byte {
+	rows := make([][]byte, a.Size)
+	for i := range rows {
+		rows[i] = make([]byte, MaxSize)
 		for j := range a.Size {
-			row[j] = byte(form(a, a.Table[i][j]))
+			rows[i][j] = byte(form(a, a.Table[i][j]))
 		}
-		rows = append(rows, row)
 	}
-	return int64(len(reduceRows(rows, a.Prime))) == a.Size
+	return rows
+}
+
+func hasFullForm(a Algebra) bool {
+	return int64(len(reduceRows(formRows(a), a.Prime))) == a.Size
 }
 
 // equationsFor returns the equations for a vector x with x b = c and b x = c: rows with the factors
@@ -557,8 +565,12 @@ func kernelOf(rows [][]byte, n int64, p int64) []Vector {
 		}
 		solutions = append(solutions, numbers)
 	}
+	return vectorsOf(reduceRows(solutions, p))
+}
+
+func vectorsOf(rows [][]byte) []Vector {
 	var vectors []Vector
-	for _, row := range reduceRows(solutions, p) {
+	for _, row := range rows {
 		vectors = append(vectors, Vector(row))
 	}
 	return vectors
