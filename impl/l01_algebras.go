@@ -425,8 +425,12 @@ func product(a Algebra, v Vector, w Vector) Vector {
 }
 
 func power(a Algebra, v Vector, k int64) Vector {
-	result, _ := findUnit(a)
-	for range k {
+	if k == 0 {
+		unit, _ := findUnit(a)
+		return unit
+	}
+	result := v
+	for range k - 1 {
 		result = product(a, result, v)
 	}
 	return result
