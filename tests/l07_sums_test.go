@@ -1590,6 +1590,18 @@ func TestSharedRows(t *testing.T) {
 	}
 }
 
+// checkNoneRemain checks that there are no more goroutines than before, or soon will be.
+func checkNoneRemain(t *testing.T, before int) {
+	t.Helper()
+	for range 100 {
+		if runtime.NumGoroutine() <= before {
+			return
+		}
+		time.Sleep(10 * time.Millisecond)
+	}
+	t.Errorf("there are %d goroutines instead of %d", runtime.NumGoroutine(), before)
+}
+
 // TestCallsAtOnce checks that calls do not disturb each other, and that no goroutine remains behind them.
 func TestCallsAtOnce(t *testing.T) {
 	before := runtime.NumGoroutine()
@@ -1612,11 +1624,5 @@ func TestCallsAtOnce(t *testing.T) {
 		}
 	}
 	group.Wait()
-	for range 100 {
-		if runtime.NumGoroutine() <= before {
-			return
-		}
-		time.Sleep(10 * time.Millisecond)
-	}
-	t.Errorf("there are %d goroutines instead of %d", runtime.NumGoroutine(), before)
+	checkNoneRemain(t, before)
 }
